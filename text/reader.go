@@ -42,6 +42,16 @@ func (r *Reader) Need(s string) {
 	}
 }
 
+// Until goes on to the next s, which there must be, and tells what stands ahead of it.
+func (r *Reader) Until(s string) string {
+	ahead, _, ok := strings.Cut(r.rest, s)
+	if !ok {
+		Refuse()
+	}
+	r.rest = r.rest[len(ahead):]
+	return ahead
+}
+
 // Name reads a name. What stands behind one is never a byte of a name, so that the longest is meant.
 func (r *Reader) Name() string {
 	s := r.run(isNameByte)

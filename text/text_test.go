@@ -75,3 +75,25 @@ func TestNumberBelowTen(t *testing.T) {
 		}
 	}
 }
+
+func TestUntil(t *testing.T) {
+	between := func(r *text.Reader) string {
+		r.Need("<")
+		s := r.Until("->")
+		r.Need("->")
+		return s
+	}
+	for s, want := range map[string]string{"<a->": "a", "<->": "", "<a-b>->": "a-b>"} {
+		if got, err := text.Whole(s, between); got != want || err != api.OK {
+			t.Errorf("%q: %q, error %d; must be %q", s, got, err, want)
+		}
+	}
+	for _, s := range []string{"<", "<a", "<a-", "<a>", "<a->b->", "<a-> "} {
+		if got, err := text.Whole(s, between); got != "" || err != api.ErrForm {
+			t.Errorf("%q: %q, error %d; must be refused", s, got, err)
+		}
+	}
+	if got, err := text.Whole("a", func(r *text.Reader) string { return r.Until(".") }); got != "" || err != api.ErrForm {
+		t.Errorf("without what is looked for: %q, error %d; must be refused", got, err)
+	}
+}
